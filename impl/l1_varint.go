@@ -109,6 +109,10 @@ func PutAll(l []int) (string, bool) {
 	if len(l) > maxNumbers {
 		return "", false
 	}
+	return putEach(l)
+}
+
+func putEach(l []int) (string, bool) {
 	var out strings.Builder
 	for _, n := range l {
 		s, ok := PutVarint(n)
@@ -124,10 +128,15 @@ func GetAll(s string) ([]int, bool) {
 	if len(s) > MaxBytes {
 		return nil, false
 	}
+	return getEach(s, maxNumbers)
+}
+
+// getEach gives up at the first number too many: a long text is not read to its end.
+func getEach(s string, most int) ([]int, bool) {
 	var out []int
 	for at := 0; at < len(s); {
 		n, end, ok := GetVarint(s, at)
-		if !ok || len(out) == maxNumbers {
+		if !ok || len(out) == most {
 			return nil, false
 		}
 		out = append(out, n)
